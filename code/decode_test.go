@@ -259,3 +259,18 @@ func TestP1403Order(t *testing.T) {
 		isRefused(t, unhex(x.b), x.at, x.want)
 	}
 }
+
+// TestP1403GreatMapsThatAreNone: at each of very many words a map of 2^24 places would follow; that it is none must be told by few of its words.
+func TestP1403GreatMapsThatAreNone(t *testing.T) {
+	const words = 1 << 20
+	b := bytes.Repeat([]byte{2, 0, 0, 24}, words)
+	for at := range words {
+		want := api.ErrMap
+		if at+1+1<<19 > words {
+			want = api.ErrBounds
+		}
+		if i, size, e := Decode(b, at); e != want || size != 0 || !isNone(i) {
+			t.Fatalf("P1403: at %d: %s, %d, %v, want %v", at, short(i), size, e, want)
+		}
+	}
+}

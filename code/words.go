@@ -55,12 +55,13 @@ func readMap(b []byte, at, n int) ([]uint32, api.Errno) {
 	if !stand(b, at, size) {
 		return nil, api.ErrBounds
 	}
+	// Asked ahead of reading the others: a row may have very many words behind which a great map would stand, and has none.
+	if !beginsMap(wordAt(b, at), n) {
+		return nil, api.ErrMap
+	}
 	m := make([]uint32, size)
 	for k := range m {
 		m[k] = wordAt(b, at+k)
-	}
-	if !isMap(m, n) {
-		return nil, api.ErrMap
 	}
 	return m, api.OK
 }
@@ -81,7 +82,12 @@ func mapWords(n int) int {
 	return max(1, (1<<n)/wordBits)
 }
 
-// isMap tells whether a bitmap is a map of n. Only a single word has places from 2^n on: where it has none, the shift leaves nothing either.
+// isMap tells whether a bitmap is a map of n.
 func isMap(m []uint32, n int) bool {
-	return len(m) == mapWords(n) && m[0]>>(wordBits-1) == 1 && m[0]<<(1<<n) == 0
+	return len(m) == mapWords(n) && beginsMap(m[0], n)
+}
+
+// beginsMap tells whether a map of n may begin with a word; all other words of one may be any. Only a single word has places from 2^n on: where it has none, the shift leaves nothing either.
+func beginsMap(w uint32, n int) bool {
+	return w>>(wordBits-1) == 1 && w<<(1<<n) == 0
 }
