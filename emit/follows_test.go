@@ -10,6 +10,7 @@ import (
 	"turnpike/code"
 	"turnpike/mtrie"
 	"turnpike/share"
+	"turnpike/verify"
 )
 
 // isGapless asks that nodes lie one behind the other, from word 0 on, node 0 first, and that each leads to greater places only.
@@ -135,6 +136,22 @@ func TestP1604Tree(t *testing.T) {
 			depth, _ := mtrie.Check(family, l)
 			if d, e := mtrie.Check(family, tree); d != depth || e != api.OK {
 				t.Fatalf("P1604: the code of %s has the depth %d, %v, want %d", textOf(l), d, e, depth)
+			}
+		}
+	}
+}
+
+// TestP1604Verified: verify takes the code, and tells its depth, and the list in its order.
+func TestP1604Verified(t *testing.T) {
+	for _, family := range families {
+		for _, l := range samples(family) {
+			b := codeOf(t, family, l)
+			depth, _ := mtrie.Check(family, l)
+			if d, at, e := verify.Code(family, b); d != depth || at != 0 || e != api.OK {
+				t.Fatalf("P1604: the code of %s: %d, %d, %v, want the depth %d", textOf(l), d, at, e, depth)
+			}
+			if tree, e := verify.Tree(family, b); e != api.OK || !like(tree, inOrderBy(l)) {
+				t.Fatalf("P1604: the code of %s is that of %s, %v", textOf(l), textOf(tree), e)
 			}
 		}
 	}
