@@ -9,6 +9,7 @@ import (
 	"turnpike/code"
 	"turnpike/emit"
 	"turnpike/mtrie"
+	"turnpike/vm"
 )
 
 // bitsOf is so many bits of an address from a place on, as a number.
@@ -56,6 +57,15 @@ func runBy(family int, b []byte, w api.Word) (hop, steps int, e api.Errno) {
 		case api.OReturn:
 			return i.N, steps, api.OK
 		}
+	}
+}
+
+// isRunAlike asks that a run of the program's own, with as much fuel as code of that depth needs, tells the same.
+func isRunAlike(t *testing.T, family int, b []byte, w api.Word, depth, hop, steps int) {
+	t.Helper()
+	r := vm.Run(family, b, w, max(1, 3*depth))
+	if r.Hop != hop || r.Steps != steps || r.Err != api.OK || r.Extracts > depth || r.Indexes > depth {
+		t.Fatalf("P1804: %x in %s: %+v; want %d in %d steps, and the depth is %d", w, short(b), r, hop, steps, depth)
 	}
 }
 
@@ -123,6 +133,7 @@ func TestP1804Answers(t *testing.T) {
 				if hop != want || e != api.OK || steps > max(1, 3*depth) {
 					t.Fatalf("P1804: %x in %s: %d, %v in %d steps; want %d, and the depth is %d", w, short(b), hop, e, steps, want, depth)
 				}
+				isRunAlike(t, family, b, w, depth, hop, steps)
 				if known, _ := mtrie.Lookup(family, l, w); want != known {
 					t.Fatalf("P1804: %x in %s: %d, want %d", w, textOf(tree), want, known)
 				}
@@ -157,6 +168,7 @@ func TestP1804WhateverIsTaken(t *testing.T) {
 				if hop != want || e != api.OK || f != api.OK || steps > max(1, 3*depth) {
 					t.Fatalf("P1804: %x in %s: %d, %v in %d steps; want %d, %v, and the depth is %d", w, short(b), hop, e, steps, want, f, depth)
 				}
+				isRunAlike(t, family, b, w, depth, hop, steps)
 			}
 		}
 	}
